@@ -1,5 +1,7 @@
 """What several test files need: rules with known states behind them, and the document's words as sums."""
 
+import itertools
+
 LARGEST = 4294967295
 LARGEST_IN_LIST = 65535
 
@@ -50,6 +52,36 @@ def told_after(n, s, k, t):
     return s
 
 
+def told_way(n, s, t):
+    """How many steps it takes till s is on a round: at a state that comes again behind some steps."""
+    steps = range(2 ** n)
+    on_round = [any(told_after(n, state, k + 1, t) == state for k in steps) for state in range(2 ** n)]
+    return min(k for k in steps if on_round[told_after(n, s, k, t)])
+
+
+def told_round(n, s, t):
+    """The states of the round to which s comes, from the one on with which s comes there."""
+    first = told_after(n, s, told_way(n, s, t), t)
+    size = min(k for k in range(1, 2 ** n + 1) if told_after(n, first, k, t) == first)
+    return [told_after(n, first, k, t) for k in range(size)]
+
+
+def told_rounds(n, t):
+    """The least state and the size of each round, by least states, rising."""
+    found = {tuple(sorted(told_round(n, s, t))) for s in range(2 ** n)}
+    return [(states[0], len(states)) for states in sorted(found)]
+
+
+def rules_for(n, behind):
+    """The rules by which each state s of n towers comes to behind[s]."""
+    return [sum(2 ** s for s in range(2 ** n) if behind[s] // 2 ** j % 2 == 1) for j in range(n)]
+
+
+def way_then_round(n, way):
+    """Rules by which s comes to s + 1, and the last state to the one numbered way."""
+    return rules_for(n, list(range(1, 2 ** n)) + [way])
+
+
 def mixed_rules(n, many):
     """Lists of n rules without an order to them, the same ones each time."""
     rules = 2 ** 2 ** n
@@ -62,3 +94,10 @@ def mixed_rules(n, many):
             t.append(number // 2 ** 8 % rules)
         lists.append(t)
     return lists
+
+
+def some_rules(n, many):
+    """Every list of rules for one and two towers; for three and four, which have too many, so many mixed ones."""
+    if n > 2:
+        return mixed_rules(n, many)
+    return [list(t) for t in itertools.product(range(2 ** 2 ** n), repeat=n)]

@@ -50,6 +50,14 @@ class Language(unittest.TestCase):
                 if isinstance(node, ast.Name) and hasattr(builtins, node.id):
                     self.assertIn(node.id, ALLOWED_BUILTINS, (name, node.lineno))
 
+    def test_no_name_of_pythons_own_is_given_another_meaning(self):
+        for name, tree in trees():
+            for node in ast.walk(tree):
+                if isinstance(node, ast.arg):
+                    self.assertFalse(hasattr(builtins, node.arg), (name, node.lineno))
+                if isinstance(node, ast.Name) and isinstance(node.ctx, ast.Store):
+                    self.assertFalse(hasattr(builtins, node.id), (name, node.lineno))
+
     def test_no_power_with_an_exponent_that_is_worked_out(self):
         for name, tree in trees():
             for node in ast.walk(tree):

@@ -1,21 +1,28 @@
 import unittest
 
 from helper import COUNTING, KEEPING, LARGEST, LARGEST_IN_LIST
-from towerflags.turns import after, next_state
+from towerflags.turns import after, next_state, round_of, rounds
 
 REFUSAL = [-22]
 
 
 class Refusals(unittest.TestCase):
-    """What is due for n, t and s is due for both functions, so both are asked each time."""
+    """What is due for n and t is due for every function, so all are asked each time; for s, all that take one."""
+
+    def check_rules_refused(self, n, t):
+        self.assertEqual(rounds(n, t), REFUSAL, (n, t))
+        self.check_refused(n, 0, t)
 
     def check_refused(self, n, s, t):
         self.assertEqual(next_state(n, s, t), REFUSAL, (n, s, t))
+        self.assertEqual(round_of(n, s, t), REFUSAL, (n, s, t))
         for k in (0, 1, 1000):
             self.assertEqual(after(n, s, k, t), REFUSAL, (n, s, k, t))
 
     def check_answered(self, n, s, t):
+        self.assertGreaterEqual(rounds(n, t)[0], 1, (n, t))
         self.assertGreaterEqual(next_state(n, s, t)[0], 0, (n, s, t))
+        self.assertGreaterEqual(round_of(n, s, t)[0], 0, (n, s, t))
         for k in (0, 1, 1000):
             self.assertGreaterEqual(after(n, s, k, t)[0], 0, (n, s, k, t))
 
@@ -26,7 +33,7 @@ class Refusals(unittest.TestCase):
     def test_number_of_towers_that_is_refused(self):
         for n in (0, 5, 6, 10, 65535, LARGEST):
             for many in range(11):
-                self.check_refused(n, 0, [0] * many)
+                self.check_rules_refused(n, [0] * many)
 
     def test_number_of_rules(self):
         for n in range(1, 5):
@@ -34,22 +41,24 @@ class Refusals(unittest.TestCase):
                 if many == n:
                     self.check_answered(n, 0, [0] * many)
                 else:
-                    self.check_refused(n, 0, [0] * many)
+                    self.check_rules_refused(n, [0] * many)
 
     def test_number_of_rules_beside_rules_that_do_something(self):
         for n in range(1, 5):
             self.check_answered(n, 0, COUNTING[n])
-            self.check_refused(n, 0, COUNTING[n][:-1])
-            self.check_refused(n, 0, COUNTING[n] + [1])
+            self.check_rules_refused(n, COUNTING[n][:-1])
+            self.check_rules_refused(n, COUNTING[n] + [1])
 
     def test_largest_rule_is_answered(self):
         for n, largest in ((1, 3), (2, 15), (3, 255), (4, LARGEST_IN_LIST)):
             for j in range(n):
                 t = [0] * n
                 t[j] = largest
+                self.assertEqual(rounds(n, t), [1, 2 ** j, 1])
                 for s in range(2 ** n):
                     self.assertEqual(next_state(n, s, t), [2 ** j])
                     self.assertEqual(after(n, s, 1, t), [2 ** j])
+                    self.assertEqual(round_of(n, s, t), [0 if s == 2 ** j else 1, 1, 2 ** j])
 
     def test_rule_that_is_too_large_is_refused_for_each_tower(self):
         for n, too_large in ((1, 4), (2, 16), (3, 256)):
@@ -57,7 +66,7 @@ class Refusals(unittest.TestCase):
                 for rule in (too_large, too_large + 1, LARGEST_IN_LIST):
                     t = [0] * n
                     t[j] = rule
-                    self.check_refused(n, 0, t)
+                    self.check_rules_refused(n, t)
 
     def test_state(self):
         for n in range(1, 5):
@@ -70,6 +79,7 @@ class Refusals(unittest.TestCase):
         for n, largest in ((1, 1), (2, 3), (3, 7), (4, 15)):
             self.assertEqual(next_state(n, largest, COUNTING[n]), [0])
             self.assertEqual(after(n, largest, 1, COUNTING[n]), [0])
+            self.assertEqual(round_of(n, largest, COUNTING[n]), [0, largest + 1, largest] + list(range(largest)))
 
     def test_number_of_steps(self):
         for n in range(1, 5):
@@ -79,6 +89,9 @@ class Refusals(unittest.TestCase):
                 self.assertEqual(after(n, 1, k, KEEPING[n]), REFUSAL)
 
     def test_several_refusals_are_one_number(self):
+        self.check_rules_refused(LARGEST, [LARGEST_IN_LIST] * 10)
+        self.check_rules_refused(0, [LARGEST_IN_LIST])
+        self.check_rules_refused(2, [16, 16, 16])
         self.check_refused(LARGEST, LARGEST, [LARGEST_IN_LIST] * 10)
         self.check_refused(0, LARGEST, [])
         self.check_refused(2, 4, [16, 16, 16])

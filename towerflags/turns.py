@@ -21,9 +21,9 @@ def rules_fit(n, t):
     return True
 
 
-def state_fits(n, s):
-    """Tell whether s is a state of n towers, for an n that is from 1 to 4."""
-    return s < (1 << n)
+def state_fits(n, s, t):
+    """Tell whether n and t fit, and s is a state of so many towers."""
+    return rules_fit(n, t) and s < (1 << n)
 
 
 def state_behind(s, t):
@@ -36,18 +36,56 @@ def state_behind(s, t):
     return behind
 
 
+def states_from(s, t):
+    """Answer s and the states that come behind it, each once, in the order in which they come."""
+    walk = []
+    state = s
+    while state not in walk:
+        walk.append(state)
+        state = state_behind(state, t)
+    return walk
+
+
+def way_length(walk, t):
+    """Answer how many states of a walk, as states_from answers it, come ahead of its round."""
+    # What comes of the walk's last state is in the walk already: there the round was entered.
+    return walk.index(state_behind(walk[-1], t))
+
+
 def next_state(n, s, t):
     """Answer the state that comes of s."""
-    if not rules_fit(n, t) or not state_fits(n, s):
+    if not state_fits(n, s, t):
         return [REFUSED]
     return [state_behind(s, t)]
 
 
 def after(n, s, k, t):
     """Answer the state behind k steps from s."""
-    if not rules_fit(n, t) or not state_fits(n, s) or k > MOST_STEPS:
+    if not state_fits(n, s, t) or k > MOST_STEPS:
         return [REFUSED]
     state = s
     for step in range(k):
         state = state_behind(state, t)
     return [state]
+
+
+def round_of(n, s, t):
+    """Answer how many steps s is from its round, how many states this has, and these as s comes to them."""
+    if not state_fits(n, s, t):
+        return [REFUSED]
+    walk = states_from(s, t)
+    way = way_length(walk, t)
+    return [way, len(walk) - way] + walk[way:]
+
+
+def rounds(n, t):
+    """Answer how many rounds there are, then of each its least state and how many states it has."""
+    if not rules_fit(n, t):
+        return [REFUSED]
+    told = []
+    for s in range(1 << n):
+        walk = states_from(s, t)
+        # Each round has just one least state, so it is told once; s rises, so the least states do too.
+        if way_length(walk, t) == 0 and min(walk) == s:
+            told.extend([s, len(walk)])
+    return [len(told) // 2] + told
