@@ -82,6 +82,13 @@ def way_then_round(n, way):
     return rules_for(n, list(range(1, 2 ** n)) + [way])
 
 
+def one_turning(n, j):
+    """Rules by which tower j turns its own flag and the others leave theirs as they are."""
+    t = list(KEEPING[n])
+    t[j] = TURNING[n][j]
+    return t
+
+
 def mixed_rules(n, many):
     """Lists of n rules without an order to them, the same ones each time."""
     rules = 2 ** 2 ** n

@@ -1,6 +1,6 @@
 import unittest
 
-from helper import COUNTING, KEEPING, TURNING, mixed_rules, told_next
+from helper import COUNTING, KEEPING, TURNING, mixed_rules, one_turning, told_next
 from towerflags.turns import next_state
 
 
@@ -71,8 +71,7 @@ class Corners(unittest.TestCase):
     def test_one_tower_turns_and_the_others_keep_their_flags(self):
         for n in range(1, 5):
             for j in range(n):
-                t = list(KEEPING[n])
-                t[j] = TURNING[n][j]
+                t = one_turning(n, j)
                 for s in range(2 ** n):
                     self.assertEqual(next_state(n, s, t), [s ^ 2 ** j])
 

@@ -1,6 +1,6 @@
 import unittest
 
-from helper import COUNTING, KEEPING, TURNING, rules_for, some_rules, told_round, told_way, way_then_round
+from helper import COUNTING, KEEPING, TURNING, one_turning, rules_for, some_rules, told_round, told_way, way_then_round
 from towerflags.turns import after, next_state, round_of
 
 
@@ -152,8 +152,7 @@ class Corners(unittest.TestCase):
     def test_one_tower_turns_and_the_others_keep_their_flags(self):
         for n in range(1, 5):
             for j in range(n):
-                t = list(KEEPING[n])
-                t[j] = TURNING[n][j]
+                t = one_turning(n, j)
                 for s in range(2 ** n):
                     self.assertEqual(round_of(n, s, t), [0, 2, s, s ^ 2 ** j])
 

@@ -1,6 +1,6 @@
 import unittest
 
-from helper import COUNTING, KEEPING, TURNING, rules_for, some_rules, told_rounds, way_then_round
+from helper import COUNTING, KEEPING, TURNING, one_turning, rules_for, some_rules, told_rounds, way_then_round
 from towerflags.turns import round_of, rounds
 
 
@@ -121,8 +121,7 @@ class Corners(unittest.TestCase):
     def test_one_tower_turns_and_the_others_keep_their_flags(self):
         for n in range(1, 5):
             for j in range(n):
-                t = list(KEEPING[n])
-                t[j] = TURNING[n][j]
+                t = one_turning(n, j)
                 expected = [2 ** n // 2]
                 for s in range(2 ** n):
                     if s // 2 ** j % 2 == 0:
