@@ -1,6 +1,12 @@
-"""What several test files need: rules with known states behind them, and the document's words as sums."""
+"""What several test files need: the functions, rules with known states behind them, the document's words as sums."""
 
 import itertools
+
+from towerflags.turns import after, before, gardens, next_state, round_of, rounds
+
+# The functions by what they take ahead of t: n alone, or n and s. Only after takes a third number.
+WITH_N = (rounds, gardens)
+WITH_STATE = (next_state, round_of, before)
 
 LARGEST = 4294967295
 LARGEST_IN_LIST = 65535
@@ -40,6 +46,12 @@ class WatchedList(list):
     __setitem__ = __delitem__ = __iadd__ = __imul__ = fail
 
 
+def every_call(n, s, k):
+    """Each function, and the numbers that it takes ahead of t."""
+    calls = [(call, (n,)) for call in WITH_N] + [(call, (n, s)) for call in WITH_STATE]
+    return calls + [(after, (n, s, k))]
+
+
 def told_next(n, s, t):
     """The state that comes of s, as the document's words tell it."""
     return sum(2 ** j for j in range(n) if t[j] // 2 ** s % 2 == 1)
@@ -70,6 +82,16 @@ def told_rounds(n, t):
     """The least state and the size of each round, by least states, rising."""
     found = {tuple(sorted(told_round(n, s, t))) for s in range(2 ** n)}
     return [(states[0], len(states)) for states in sorted(found)]
+
+
+def told_before(n, s, t):
+    """The states of which s comes, rising."""
+    return [state for state in range(2 ** n) if told_next(n, state, t) == s]
+
+
+def told_gardens(n, t):
+    """The states that come of none, rising: what is left when all that come of one are taken away."""
+    return sorted(set(range(2 ** n)) - {told_next(n, s, t) for s in range(2 ** n)})
 
 
 def rules_for(n, behind):

@@ -3,37 +3,27 @@ import inspect
 import io
 import unittest
 
-from helper import COUNTING, LARGEST, LARGEST_IN_LIST, WatchedList, mixed_rules
+from helper import COUNTING, LARGEST, LARGEST_IN_LIST, WatchedList, every_call, mixed_rules
 from towerflags import turns
-from towerflags.turns import after, next_state, round_of, rounds
+from towerflags.turns import after, before, gardens, next_state, round_of, rounds
 
 
 def calls_with(make_list):
-    """Calls that are answered and calls that are refused, each with a list made for it alone."""
-    calls = []
+    """Calls of every function, some answered and some refused, each with a list made for it alone."""
+    asked = []
     for n in range(1, 5):
         for t in [COUNTING[n]] + mixed_rules(n, 5):
-            calls.append((rounds, (n,), make_list(t)))
             for s in range(2 ** n):
-                calls.append((next_state, (n, s), make_list(t)))
-                calls.append((after, (n, s, 7), make_list(t)))
-                calls.append((round_of, (n, s), make_list(t)))
-        calls.append((next_state, (n, 2 ** n), make_list(COUNTING[n])))
-        calls.append((next_state, (n, 0), make_list(COUNTING[n] + [0])))
-        calls.append((after, (n, 0, 1001), make_list(COUNTING[n])))
-        calls.append((after, (n, 0, 1), make_list(COUNTING[n][:-1])))
-        calls.append((round_of, (n, 2 ** n), make_list(COUNTING[n])))
-        calls.append((round_of, (n, 0), make_list(COUNTING[n][:-1])))
-        calls.append((rounds, (n,), make_list(COUNTING[n] + [0])))
-    calls.append((next_state, (2, 0), make_list([5, 16])))
-    calls.append((after, (2, 0, 3), make_list([16, 5])))
-    calls.append((round_of, (2, 0), make_list([5, 16])))
-    calls.append((rounds, (2,), make_list([16, 5])))
-    calls.append((next_state, (0, 0), make_list([])))
-    calls.append((rounds, (0,), make_list([])))
-    calls.append((round_of, (LARGEST, LARGEST), make_list([LARGEST_IN_LIST] * 10)))
-    calls.append((after, (LARGEST, LARGEST, LARGEST), make_list([LARGEST_IN_LIST] * 10)))
-    return calls
+                asked.append((n, s, 7, t))
+        asked.append((n, 2 ** n, 1, COUNTING[n]))
+        asked.append((n, 0, 1001, COUNTING[n]))
+        asked.append((n, 0, 1, COUNTING[n] + [0]))
+        asked.append((n, 0, 1, COUNTING[n][:-1]))
+    asked.append((2, 0, 3, [5, 16]))
+    asked.append((2, 0, 3, [16, 5]))
+    asked.append((0, 0, 0, []))
+    asked.append((LARGEST, LARGEST, LARGEST, [LARGEST_IN_LIST] * 10))
+    return [(call, numbers, make_list(t)) for n, s, k, t in asked for call, numbers in every_call(n, s, k)]
 
 
 class NamesAndKinds(unittest.TestCase):
@@ -42,12 +32,16 @@ class NamesAndKinds(unittest.TestCase):
         self.assertEqual(list(inspect.signature(turns.after).parameters), ["n", "s", "k", "t"])
         self.assertEqual(list(inspect.signature(turns.round_of).parameters), ["n", "s", "t"])
         self.assertEqual(list(inspect.signature(turns.rounds).parameters), ["n", "t"])
+        self.assertEqual(list(inspect.signature(turns.before).parameters), ["n", "s", "t"])
+        self.assertEqual(list(inspect.signature(turns.gardens).parameters), ["n", "t"])
 
     def test_arguments_by_name(self):
         self.assertEqual(turns.next_state(n=2, s=1, t=[5, 6]), [2])
         self.assertEqual(turns.after(n=2, s=1, k=2, t=[5, 6]), [3])
         self.assertEqual(turns.round_of(n=2, s=1, t=[5, 6]), [0, 4, 1, 2, 3, 0])
         self.assertEqual(turns.rounds(n=2, t=[5, 6]), [1, 0, 4])
+        self.assertEqual(turns.before(n=2, s=1, t=[5, 6]), [1, 0])
+        self.assertEqual(turns.gardens(n=2, t=[5, 6]), [0])
 
     def test_answer_is_a_list_of_whole_numbers(self):
         for call, numbers, t in calls_with(list):
@@ -71,9 +65,9 @@ class NamesAndKinds(unittest.TestCase):
 class NothingChangedOrKept(unittest.TestCase):
     def test_list_is_the_same_after_the_call(self):
         for call, numbers, t in calls_with(list):
-            before = list(t)
+            copied = list(t)
             call(*numbers, t)
-            self.assertEqual(t, before)
+            self.assertEqual(t, copied)
 
     def test_list_is_not_changed_for_a_while_either(self):
         for call, numbers, t in calls_with(WatchedList):
@@ -104,16 +98,18 @@ class NothingChangedOrKept(unittest.TestCase):
         self.assertEqual(after(2, 1, 2, t), [3])
         self.assertEqual(round_of(2, 3, t), [0, 4, 3, 0, 1, 2])
         self.assertEqual(rounds(2, t), [1, 0, 4])
+        self.assertEqual(before(2, 0, t), [1, 3])
+        self.assertEqual(gardens(2, t), [0])
         t[1] = 0
         self.assertEqual(next_state(2, 1, t), [0])
         self.assertEqual(after(2, 1, 2, t), [1])
         self.assertEqual(round_of(2, 3, t), [1, 2, 0, 1])
         self.assertEqual(rounds(2, t), [1, 0, 2])
+        self.assertEqual(before(2, 0, t), [2, 1, 3])
+        self.assertEqual(gardens(2, t), [2, 2, 3])
         t.append(0)
-        self.assertEqual(next_state(2, 1, t), [-22])
-        self.assertEqual(after(2, 1, 2, t), [-22])
-        self.assertEqual(round_of(2, 3, t), [-22])
-        self.assertEqual(rounds(2, t), [-22])
+        for call, numbers in every_call(2, 1, 2):
+            self.assertEqual(call(*numbers, t), [-22])
 
     def test_nothing_is_printed(self):
         out = io.StringIO()

@@ -1,7 +1,7 @@
 import unittest
 
-from helper import COUNTING, KEEPING, LARGEST, LARGEST_IN_LIST
-from towerflags.turns import after, next_state, round_of, rounds
+from helper import COUNTING, KEEPING, LARGEST, LARGEST_IN_LIST, WITH_N, WITH_STATE, every_call
+from towerflags.turns import after, before, gardens, next_state, round_of, rounds
 
 REFUSAL = [-22]
 
@@ -10,21 +10,20 @@ class Refusals(unittest.TestCase):
     """What is due for n and t is due for every function, so all are asked each time; for s, all that take one."""
 
     def check_rules_refused(self, n, t):
-        self.assertEqual(rounds(n, t), REFUSAL, (n, t))
+        for call in WITH_N:
+            self.assertEqual(call(n, t), REFUSAL, (call, n, t))
         self.check_refused(n, 0, t)
 
     def check_refused(self, n, s, t):
-        self.assertEqual(next_state(n, s, t), REFUSAL, (n, s, t))
-        self.assertEqual(round_of(n, s, t), REFUSAL, (n, s, t))
+        for call in WITH_STATE:
+            self.assertEqual(call(n, s, t), REFUSAL, (call, n, s, t))
         for k in (0, 1, 1000):
             self.assertEqual(after(n, s, k, t), REFUSAL, (n, s, k, t))
 
     def check_answered(self, n, s, t):
-        self.assertGreaterEqual(rounds(n, t)[0], 1, (n, t))
-        self.assertGreaterEqual(next_state(n, s, t)[0], 0, (n, s, t))
-        self.assertGreaterEqual(round_of(n, s, t)[0], 0, (n, s, t))
         for k in (0, 1, 1000):
-            self.assertGreaterEqual(after(n, s, k, t)[0], 0, (n, s, k, t))
+            for call, numbers in every_call(n, s, k):
+                self.assertGreaterEqual(call(*numbers, t)[0], 0, (call, numbers, t))
 
     def test_number_of_towers_that_is_answered(self):
         for n in (1, 2, 3, 4):
@@ -54,7 +53,12 @@ class Refusals(unittest.TestCase):
             for j in range(n):
                 t = [0] * n
                 t[j] = largest
+                others = [s for s in range(2 ** n) if s != 2 ** j]
                 self.assertEqual(rounds(n, t), [1, 2 ** j, 1])
+                self.assertEqual(gardens(n, t), [2 ** n - 1] + others)
+                self.assertEqual(before(n, 2 ** j, t), [2 ** n] + list(range(2 ** n)))
+                for s in others:
+                    self.assertEqual(before(n, s, t), [0])
                 for s in range(2 ** n):
                     self.assertEqual(next_state(n, s, t), [2 ** j])
                     self.assertEqual(after(n, s, 1, t), [2 ** j])
@@ -80,6 +84,7 @@ class Refusals(unittest.TestCase):
             self.assertEqual(next_state(n, largest, COUNTING[n]), [0])
             self.assertEqual(after(n, largest, 1, COUNTING[n]), [0])
             self.assertEqual(round_of(n, largest, COUNTING[n]), [0, largest + 1, largest] + list(range(largest)))
+            self.assertEqual(before(n, largest, COUNTING[n]), [1, largest - 1])
 
     def test_number_of_steps(self):
         for n in range(1, 5):

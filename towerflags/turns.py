@@ -52,6 +52,11 @@ def way_length(walk, t):
     return walk.index(state_behind(walk[-1], t))
 
 
+def states_before(n, s, t):
+    """Answer the states of which s comes, rising, for an n, an s and a t that fit."""
+    return [state for state in range(1 << n) if state_behind(state, t) == s]
+
+
 def next_state(n, s, t):
     """Answer the state that comes of s."""
     if not state_fits(n, s, t):
@@ -89,3 +94,19 @@ def rounds(n, t):
         if way_length(walk, t) == 0 and min(walk) == s:
             told.extend([s, len(walk)])
     return [len(told) // 2] + told
+
+
+def before(n, s, t):
+    """Answer of how many states s comes, then these, rising."""
+    if not state_fits(n, s, t):
+        return [REFUSED]
+    found = states_before(n, s, t)
+    return [len(found)] + found
+
+
+def gardens(n, t):
+    """Answer how many states come of none, then these, rising."""
+    if not rules_fit(n, t):
+        return [REFUSED]
+    found = [s for s in range(1 << n) if len(states_before(n, s, t)) == 0]
+    return [len(found)] + found
