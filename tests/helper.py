@@ -2,11 +2,11 @@
 
 import itertools
 
-from towerflags.turns import after, before, gardens, next_state, round_of, rounds
+from towerflags.turns import after, basin, before, gardens, next_state, round_of, rounds
 
 # The functions by what they take ahead of t: n alone, or n and s. Only after takes a third number.
 WITH_N = (rounds, gardens)
-WITH_STATE = (next_state, round_of, before)
+WITH_STATE = (next_state, round_of, before, basin)
 
 LARGEST = 4294967295
 LARGEST_IN_LIST = 65535
@@ -92,6 +92,12 @@ def told_before(n, s, t):
 def told_gardens(n, t):
     """The states that come of none, rising: what is left when all that come of one are taken away."""
     return sorted(set(range(2 ** n)) - {told_next(n, s, t) for s in range(2 ** n)})
+
+
+def told_basins(n, t):
+    """For each state, how many states come to the very states of the round to which it comes."""
+    ends = [sorted(told_round(n, s, t)) for s in range(2 ** n)]
+    return [ends.count(end) for end in ends]
 
 
 def rules_for(n, behind):

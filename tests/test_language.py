@@ -17,6 +17,12 @@ def package_files():
     return [path for path in sorted(PACKAGE.rglob("*")) if "__pycache__" not in path.parts]
 
 
+def calls_of(node):
+    """The names that are called within a part of a file."""
+    calls = [part for part in ast.walk(node) if isinstance(part, ast.Call)]
+    return {call.func.id for call in calls if isinstance(call.func, ast.Name)}
+
+
 def trees():
     return [(path.name, ast.parse(path.read_text(encoding="utf-8"))) for path in package_files()]
 
@@ -38,6 +44,19 @@ class Language(unittest.TestCase):
             for node in ast.walk(tree):
                 if isinstance(node, ast.FunctionDef):
                     self.assertLessEqual(node.end_lineno - node.lineno + 1, 40, (name, node.name))
+
+    def test_no_function_calls_itself_in_whatever_many_steps(self):
+        for name, tree in trees():
+            called = {node.name: calls_of(node) for node in ast.walk(tree) if isinstance(node, ast.FunctionDef)}
+            for start in called:
+                reached = set()
+                ahead = sorted(called[start])
+                while ahead:
+                    function = ahead.pop()
+                    if function in called and function not in reached:
+                        reached.add(function)
+                        ahead.extend(called[function])
+                self.assertNotIn(start, reached, name)
 
     def test_nothing_is_imported(self):
         for name, tree in trees():

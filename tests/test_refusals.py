@@ -1,7 +1,7 @@
 import unittest
 
 from helper import COUNTING, KEEPING, LARGEST, LARGEST_IN_LIST, WITH_N, WITH_STATE, every_call
-from towerflags.turns import after, before, gardens, next_state, round_of, rounds
+from towerflags.turns import after, basin, before, gardens, next_state, round_of, rounds
 
 REFUSAL = [-22]
 
@@ -63,6 +63,7 @@ class Refusals(unittest.TestCase):
                     self.assertEqual(next_state(n, s, t), [2 ** j])
                     self.assertEqual(after(n, s, 1, t), [2 ** j])
                     self.assertEqual(round_of(n, s, t), [0 if s == 2 ** j else 1, 1, 2 ** j])
+                    self.assertEqual(basin(n, s, t), [2 ** n])
 
     def test_rule_that_is_too_large_is_refused_for_each_tower(self):
         for n, too_large in ((1, 4), (2, 16), (3, 256)):
@@ -85,6 +86,7 @@ class Refusals(unittest.TestCase):
             self.assertEqual(after(n, largest, 1, COUNTING[n]), [0])
             self.assertEqual(round_of(n, largest, COUNTING[n]), [0, largest + 1, largest] + list(range(largest)))
             self.assertEqual(before(n, largest, COUNTING[n]), [1, largest - 1])
+            self.assertEqual(basin(n, largest, COUNTING[n]), [largest + 1])
 
     def test_number_of_steps(self):
         for n in range(1, 5):

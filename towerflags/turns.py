@@ -110,3 +110,12 @@ def gardens(n, t):
         return [REFUSED]
     found = [s for s in range(1 << n) if len(states_before(n, s, t)) == 0]
     return [len(found)] + found
+
+
+def basin(n, s, t):
+    """Answer how many states come to the round to which s comes, those of the round among them."""
+    if not state_fits(n, s, t):
+        return [REFUSED]
+    # A walk ends on its round and goes through the whole of it: one state of the round stands for all.
+    on_round = states_from(s, t)[-1]
+    return [len([state for state in range(1 << n) if on_round in states_from(state, t)])]
